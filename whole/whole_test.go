@@ -1,0 +1,103 @@
+package whole
+
+import (
+	"math"
+	"math/big"
+	"testing"
+)
+
+// samples: numbers about the edges of limbs and ints, and long ones.
+func samples() []*big.Int {
+	list := []*big.Int{big.NewInt(0), big.NewInt(math.MaxInt64)}
+	for _, power := range []int64{0, 1, 8, 9, 10, 12, 17, 18, 19, 27, 40, 200} {
+		edge := new(big.Int).Exp(big.NewInt(10), big.NewInt(power), nil)
+		for _, step := range []int64{-2, -1, 0, 1, 2} {
+			list = append(list, new(big.Int).Add(edge, big.NewInt(step)))
+		}
+	}
+	seed := uint64(1)
+	for bits := uint(3); bits < 400; bits += 31 {
+		n := new(big.Int)
+		for range bits {
+			seed = seed*6364136223846793005 + 1442695040888963407
+			n.Lsh(n, 1)
+			n.Or(n, new(big.Int).SetUint64(seed>>63))
+		}
+		list = append(list, n)
+	}
+	for _, n := range list {
+		list = append(list, new(big.Int).Neg(n))
+	}
+	return list
+}
+
+// of: the number, built of its digits.
+func of(n *big.Int) Int {
+	number := Int{}
+	for _, digit := range new(big.Int).Abs(n).String() {
+		number = Add(Mul(number, Small(10)), Small(int(digit-'0')))
+	}
+	if n.Sign() < 0 {
+		return Neg(number)
+	}
+	return number
+}
+
+// sound: whether the number is in its one form.
+func sound(a Int) bool {
+	for _, limb := range a.limbs {
+		if limb < 0 || limb >= base {
+			return false
+		}
+	}
+	if len(a.limbs) == 0 {
+		return !a.below
+	}
+	return a.limbs[len(a.limbs)-1] != 0
+}
+
+func check(t *testing.T, call string, a *big.Int, b *big.Int, got Int, want *big.Int) {
+	t.Helper()
+	if !sound(got) || got.Text() != want.String() {
+		t.Errorf("%s of %s and %s = %s, want %s", call, a, b, got.Text(), want)
+	}
+}
+
+func TestSmall(t *testing.T) {
+	for _, n := range []int{0, 1, -1, 9, 10, 99, -99, 999999999, 1000000000, -1000000000, math.MaxInt, math.MinInt, math.MinInt + 1} {
+		want := big.NewInt(int64(n))
+		check(t, "Small", want, want, Small(n), want)
+	}
+}
+
+func TestOneNumber(t *testing.T) {
+	for _, n := range samples() {
+		a := of(n)
+		check(t, "Text", n, n, a, n)
+		check(t, "Neg", n, n, Neg(a), new(big.Int).Neg(n))
+		check(t, "Abs", n, n, Abs(a), new(big.Int).Abs(n))
+		if a.Sign() != n.Sign() {
+			t.Errorf("Sign of %s = %d", n, a.Sign())
+		}
+		if want := len(new(big.Int).Abs(n).String()); a.Digits() != want {
+			t.Errorf("Digits of %s = %d, want %d", n, a.Digits(), want)
+		}
+	}
+}
+
+func TestTwoNumbers(t *testing.T) {
+	list := samples()
+	for _, n := range list {
+		for _, m := range list {
+			a, b := of(n), of(m)
+			check(t, "Add", n, m, Add(a, b), new(big.Int).Add(n, m))
+			check(t, "Sub", n, m, Sub(a, b), new(big.Int).Sub(n, m))
+			check(t, "Mul", n, m, Mul(a, b), new(big.Int).Mul(n, m))
+			if Compare(a, b) != n.Cmp(m) {
+				t.Errorf("Compare of %s and %s = %d", n, m, Compare(a, b))
+			}
+			check(t, "nothing", n, m, a, n)
+			check(t, "nothing", n, m, b, m)
+		}
+	}
+}
