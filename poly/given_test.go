@@ -1,6 +1,7 @@
 package poly_test
 
 import (
+	"slices"
 	"testing"
 
 	"factor/poly"
@@ -19,9 +20,9 @@ func TestGivenStays(t *testing.T) {
 		count := len(given)
 		for i := range count {
 			for k := range count {
-				for call := range 4 {
+				for call := range 6 {
 					x := anyCall(given[i], given[k], call, k%7-3)
-					if x != nil && round == 0 {
+					if x != nil && round == 0 && !slices.Contains(texts, x.Text()) {
 						given = append(given, x)
 						texts = append(texts, x.Text())
 					}
@@ -47,6 +48,10 @@ func anyCall(a *poly.Poly, b *poly.Poly, call int, s int) *poly.Poly {
 		x, _ = poly.Mul(a, b)
 	case 3:
 		x, _ = a.Shift(s)
+	case 4:
+		x, _ = poly.Divide(a, b)
+	case 5:
+		x, _ = poly.Gcd(a, b)
 	}
 	return x
 }

@@ -12,8 +12,7 @@ func Add(a *Poly, b *Poly) (*Poly, api.Errno) {
 
 // Sub: the difference (P4).
 func Sub(a *Poly, b *Poly) (*Poly, api.Errno) {
-	turned := product(b.numbers, []whole.Int{whole.Small(-1)})
-	return bounded(sum(a.numbers, turned))
+	return bounded(difference(a.numbers, b.numbers))
 }
 
 // Mul: the product (P4).
@@ -42,6 +41,17 @@ func sum(a []whole.Int, b []whole.Int) []whole.Int {
 		x := numberAt(a, k)
 		y := numberAt(b, k)
 		total = append(total, whole.Add(x, y))
+	}
+	return total
+}
+
+// difference: the coefficients of a less b, perhaps with noughts at the end.
+func difference(a []whole.Int, b []whole.Int) []whole.Int {
+	total := []whole.Int{}
+	for k := 0; k < len(a) || k < len(b); k++ {
+		x := numberAt(a, k)
+		y := numberAt(b, k)
+		total = append(total, whole.Sub(x, y))
 	}
 	return total
 }

@@ -34,11 +34,11 @@ func TestReckonNamed(t *testing.T) {
 	} {
 		a, b := of(t, c.a), of(t, c.b)
 		x, e := poly.Add(a, b)
-		checkNamed(t, "Add of "+c.a+" and "+c.b, x, e, c.sum)
+		checkNamed(t, "P4: Add of "+c.a+" and "+c.b, x, e, c.sum)
 		x, e = poly.Sub(a, b)
-		checkNamed(t, "Sub of "+c.a+" and "+c.b, x, e, c.less)
+		checkNamed(t, "P4: Sub of "+c.a+" and "+c.b, x, e, c.less)
 		x, e = poly.Mul(a, b)
-		checkNamed(t, "Mul of "+c.a+" and "+c.b, x, e, c.product)
+		checkNamed(t, "P4: Mul of "+c.a+" and "+c.b, x, e, c.product)
 	}
 }
 
@@ -46,14 +46,14 @@ func checkNamed(t *testing.T, call string, got *poly.Poly, e api.Errno, want str
 	t.Helper()
 	if want == "" {
 		if got != nil || e != api.ErrBig {
-			t.Errorf("P4: %s = %v, %d, want ErrBig", call, got, e)
+			t.Errorf("%s = %v, %d, want ErrBig", call, got, e)
 		}
 		return
 	}
 	if got == nil || e != api.OK {
-		t.Errorf("P4: %s = %v, %d, want %s", call, got, e, want)
+		t.Errorf("%s = %v, %d, want %s", call, got, e, want)
 	} else if got.Text() != want {
-		t.Errorf("P4: %s = %s, want %s", call, got.Text(), want)
+		t.Errorf("%s = %s, want %s", call, got.Text(), want)
 	}
 }
 
@@ -115,7 +115,7 @@ func TestShiftNamed(t *testing.T) {
 		{"x^7", 99, ""},
 	} {
 		x, e := of(t, c.a).Shift(c.s)
-		checkNamed(t, fmt.Sprintf("Shift of %s by %d", c.a, c.s), x, e, c.want)
+		checkNamed(t, fmt.Sprintf("P4: Shift of %s by %d", c.a, c.s), x, e, c.want)
 	}
 	for _, a := range []string{"0", "7", "x", "999999999999*x^10"} {
 		for _, s := range []int{100, -100, 1000, 1 << 32, 1<<32 + 1, math.MaxInt, math.MinInt} {

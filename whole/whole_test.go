@@ -93,11 +93,89 @@ func TestTwoNumbers(t *testing.T) {
 			check(t, "Add", n, m, Add(a, b), new(big.Int).Add(n, m))
 			check(t, "Sub", n, m, Sub(a, b), new(big.Int).Sub(n, m))
 			check(t, "Mul", n, m, Mul(a, b), new(big.Int).Mul(n, m))
+			check(t, "Gcd", n, m, Gcd(a, b), new(big.Int).GCD(nil, nil, new(big.Int).Abs(n), new(big.Int).Abs(m)))
+			checkDivide(t, n, m)
 			if Compare(a, b) != n.Cmp(m) {
 				t.Errorf("Compare of %s and %s = %d", n, m, Compare(a, b))
 			}
 			check(t, "nothing", n, m, a, n)
 			check(t, "nothing", n, m, b, m)
 		}
+	}
+}
+
+func checkDivide(t *testing.T, n *big.Int, m *big.Int) {
+	t.Helper()
+	quotient, rest := Divide(of(n), of(m))
+	wantQuotient, wantRest := new(big.Int), n
+	if m.Sign() != 0 {
+		wantQuotient, wantRest = new(big.Int).QuoRem(n, m, new(big.Int))
+	}
+	check(t, "the quotient", n, m, quotient, wantQuotient)
+	check(t, "the rest", n, m, rest, wantRest)
+}
+
+// fromLimbs: the number of limbs, the highest first.
+func fromLimbs(limbs []int64) *big.Int {
+	n := new(big.Int)
+	for _, limb := range limbs {
+		n.Mul(n, big.NewInt(base))
+		n.Add(n, big.NewInt(limb))
+	}
+	return n
+}
+
+// limbLists: every list of some limbs of the edges: among such numbers are those
+// where the first guess of a limb of the quotient is one too many, or two.
+func limbLists(edges []int64, longest int) []*big.Int {
+	numbers := []*big.Int{}
+	lists := [][]int64{{}}
+	for range longest {
+		longer := [][]int64{}
+		for _, list := range lists {
+			for _, limb := range edges {
+				next := append(append([]int64{}, list...), limb)
+				longer = append(longer, next)
+				numbers = append(numbers, fromLimbs(next))
+			}
+		}
+		lists = longer
+	}
+	return numbers
+}
+
+func TestDivideEdges(t *testing.T) {
+	divisors := limbLists([]int64{0, 1, base / 2, base - 1}, 3)
+	for _, n := range limbLists([]int64{0, 1, base/2 - 1, base - 1}, 4) {
+		for _, m := range divisors {
+			checkDivide(t, n, m)
+		}
+	}
+}
+
+// The rest is one less than the divisor, or the number just fits.
+func TestDivideMultiples(t *testing.T) {
+	list := samples()
+	for _, n := range list {
+		for _, m := range list {
+			both := new(big.Int).Mul(n, m)
+			checkDivide(t, both, m)
+			checkDivide(t, new(big.Int).Sub(both, big.NewInt(1)), m)
+			checkDivide(t, new(big.Int).Add(both, big.NewInt(1)), m)
+		}
+	}
+}
+
+// Numbers that need the most steps of all, and those with a great divisor.
+func TestGcdLong(t *testing.T) {
+	n, m := big.NewInt(0), big.NewInt(1)
+	for range 600 {
+		n, m = m, new(big.Int).Add(n, m)
+	}
+	for _, times := range samples() {
+		a, b := new(big.Int).Mul(n, times), new(big.Int).Mul(m, times)
+		want := new(big.Int).Abs(times)
+		check(t, "Gcd", a, b, Gcd(of(a), of(b)), want)
+		check(t, "Gcd", b, a, Gcd(of(b), of(a)), want)
 	}
 }
