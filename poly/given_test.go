@@ -19,6 +19,7 @@ func TestGivenStays(t *testing.T) {
 	for round := range 2 {
 		count := len(given)
 		for i := range count {
+			given[i].Factor()
 			for k := range count {
 				for call := range 6 {
 					x := anyCall(given[i], given[k], call, k%7-3)

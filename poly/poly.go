@@ -11,9 +11,6 @@ type Poly struct {
 	numbers []whole.Int // the coefficient of x^k at k; the last is not 0
 }
 
-// Factor: the content, and the factors (P7).
-func (p *Poly) Factor() (string, []api.Part, api.Errno) { return "", nil, api.OK }
-
 // bounded: the polynomial of these coefficients, or ErrBig if it is not within
 // the bounds. Every polynomial that is handed out comes from here.
 func bounded(numbers []whole.Int) (*Poly, api.Errno) {

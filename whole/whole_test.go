@@ -85,6 +85,23 @@ func TestOneNumber(t *testing.T) {
 	}
 }
 
+func TestModulo(t *testing.T) {
+	for _, n := range samples() {
+		a := of(n)
+		for _, m := range []int{1, 2, 3, 7, 10, 997, 1 << 29, int(base) - 1, int(base)} {
+			want := int(new(big.Int).Mod(n, big.NewInt(int64(m))).Int64())
+			if a.Modulo(m) != want {
+				t.Errorf("%s modulo %d = %d, want %d", n, m, a.Modulo(m), want)
+			}
+		}
+		for _, m := range []int{0, -1, -7, math.MinInt, int(base) + 1, math.MaxInt} {
+			if a.Modulo(m) != 0 {
+				t.Errorf("%s modulo %d = %d, want 0", n, m, a.Modulo(m))
+			}
+		}
+	}
+}
+
 func TestTwoNumbers(t *testing.T) {
 	list := samples()
 	for _, n := range list {
